@@ -2,10 +2,8 @@ package tests
 
 import (
 	"fmt"
-	"runtime"
 	"slices"
 	"strings"
-	"sync"
 	"testing"
 	"testing/synctest"
 
@@ -241,25 +239,8 @@ func allPairResults() string {
 	return text.String()
 }
 
-// A result is the same whether goroutines run one at a time or many at once,
-// and while many calls are under way; and it is the same each time, as it would
-// not be if it depended on the order of a map.
 func TestSchedulingIsNotSeenInPairs(t *testing.T) {
-	before := runtime.GOMAXPROCS(1)
-	defer runtime.GOMAXPROCS(before)
-	wanted := allPairResults()
-	for _, processors := range []int{1, 2, 8, 32} {
-		runtime.GOMAXPROCS(processors)
-		var callers sync.WaitGroup
-		for range 4 {
-			callers.Go(func() {
-				if allPairResults() != wanted {
-					t.Errorf("with %d processors, a result is another one", processors)
-				}
-			})
-		}
-		callers.Wait()
-	}
+	expectSameWhenScheduled(t, 4, allPairResults)
 }
 
 // A goroutine that waits for ever after a call would be a deadlock here.

@@ -2,10 +2,8 @@ package tests
 
 import (
 	"fmt"
-	"runtime"
 	"slices"
 	"strings"
-	"sync"
 	"testing"
 	"testing/synctest"
 
@@ -158,25 +156,8 @@ func allPrinted() string {
 	return text.String()
 }
 
-// A result is the same whether goroutines run one at a time or many at once,
-// and while many calls are under way; and it is the same each time, as it would
-// not be if it depended on the order of a map.
 func TestSchedulingIsNotSeenInPrinting(t *testing.T) {
-	before := runtime.GOMAXPROCS(1)
-	defer runtime.GOMAXPROCS(before)
-	wanted := allPrinted()
-	for _, processors := range []int{1, 2, 8, 32} {
-		runtime.GOMAXPROCS(processors)
-		var callers sync.WaitGroup
-		for range 8 {
-			callers.Go(func() {
-				if allPrinted() != wanted {
-					t.Errorf("with %d processors, a result is another one", processors)
-				}
-			})
-		}
-		callers.Wait()
-	}
+	expectSameWhenScheduled(t, 8, allPrinted)
 }
 
 // A goroutine that waits for ever after a call would be a deadlock here.
